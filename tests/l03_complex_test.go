@@ -572,14 +572,9 @@ func TestComplexFunctionsLeaveTheirLists(t *testing.T) {
 	}
 }
 
-func TestComplexResultsAreNewMemory(t *testing.T) {
-	lists := map[string]func() []int{
-		"FacesOf":       func() []int { return impl.FacesOf(complexOf(3, 4, 3)) },
-		"MakeComplex":   func() []int { c, _ := impl.MakeComplex(3, []int{4, 3}); return c.Facets },
-		"ParseComplex":  func() []int { c, _ := impl.ParseComplex("3:c,ab"); return c.Facets },
-		"FullComplex":   func() []int { c, _ := impl.FullComplex(3); return c.Facets },
-		"BorderComplex": func() []int { c, _ := impl.BorderComplex(3); return c.Facets },
-	}
+// holdsNewMemory overwrites what each function returns and asks it once more.
+func holdsNewMemory(t *testing.T, lists map[string]func() []int) {
+	t.Helper()
 	for name, produce := range lists {
 		first := produce()
 		want := slices.Clone(first)
@@ -590,4 +585,15 @@ func TestComplexResultsAreNewMemory(t *testing.T) {
 			t.Errorf("%s: %v, then %v", name, want, again)
 		}
 	}
+}
+
+func TestComplexResultsAreNewMemory(t *testing.T) {
+	lists := map[string]func() []int{
+		"FacesOf":       func() []int { return impl.FacesOf(complexOf(3, 4, 3)) },
+		"MakeComplex":   func() []int { c, _ := impl.MakeComplex(3, []int{4, 3}); return c.Facets },
+		"ParseComplex":  func() []int { c, _ := impl.ParseComplex("3:c,ab"); return c.Facets },
+		"FullComplex":   func() []int { c, _ := impl.FullComplex(3); return c.Facets },
+		"BorderComplex": func() []int { c, _ := impl.BorderComplex(3); return c.Facets },
+	}
+	holdsNewMemory(t, lists)
 }
