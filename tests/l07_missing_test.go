@@ -223,6 +223,13 @@ func TestFromMissingByHand(t *testing.T) {
 	}
 }
 
+// plainLeast has the sets of which no other one of the list is a proper subset, in order.
+func plainLeast(sets []int) []int {
+	return listed(sets, func(s int) bool {
+		return !slices.ContainsFunc(sets, func(o int) bool { return o != s && plainSubset(o, s) })
+	})
+}
+
 // holdsFromMissing asks for each set whether it contains one of the sets, and whether the least of them are found again.
 func holdsFromMissing(t *testing.T, n int, sets []int) {
 	t.Helper()
@@ -232,15 +239,15 @@ func holdsFromMissing(t *testing.T, n int, sets []int) {
 	}
 	got, ok := impl.FromMissing(n, sets)
 	holdsJoined(t, "FromMissing "+plainComplexText(complexOf(n, sets...)), got, ok, n, want)
-	least := listed(sets, func(s int) bool {
-		return !slices.ContainsFunc(sets, func(o int) bool { return o != s && plainSubset(o, s) })
-	})
+	least := plainLeast(sets)
 	if again := impl.MissingSets(got); !slices.Equal(again, least) {
 		t.Errorf("FromMissing(%d, %v) = %v has the missing sets %v, want %v", n, sets, got, again, least)
 	}
 }
 
-func TestFromMissingOfAllFamiliesOfFewPoints(t *testing.T) {
+// holdsOnAllFamilies has each family of sets of at most 3 points, also in the other order and with equal sets.
+func holdsOnAllFamilies(t *testing.T, holds func(t *testing.T, n int, sets []int)) {
+	t.Helper()
 	for n := 1; n <= 3; n++ {
 		for family := range 1 << (1 << n) {
 			var sets []int
@@ -249,14 +256,16 @@ func TestFromMissingOfAllFamiliesOfFewPoints(t *testing.T) {
 					sets = append(sets, s)
 				}
 			}
-			holdsFromMissing(t, n, sets)
+			holds(t, n, sets)
 			slices.Reverse(sets)
-			holdsFromMissing(t, n, append(sets, sets...))
+			holds(t, n, append(sets, sets...))
 		}
 	}
 }
 
-func TestFromMissingOfSomeFamilies(t *testing.T) {
+// holdsOnSomeFamilies has families of sets of 4 to 6 points.
+func holdsOnSomeFamilies(t *testing.T, holds func(t *testing.T, n int, sets []int)) {
+	t.Helper()
 	for n := 4; n <= 6; n++ {
 		for i, list := range setLists() {
 			var sets []int
@@ -264,14 +273,18 @@ func TestFromMissingOfSomeFamilies(t *testing.T) {
 				sets = append(sets, s%(1<<n))
 			}
 			if i%5 == n-4 || i < 10 {
-				holdsFromMissing(t, n, sets)
+				holds(t, n, sets)
 			}
 		}
 		for size := range n + 1 {
-			holdsFromMissing(t, n, listed(plainOrder(), func(s int) bool { return s < 1<<n && len(plainPoints(s)) == size }))
+			holds(t, n, listed(plainOrder(), func(s int) bool { return s < 1<<n && len(plainPoints(s)) == size }))
 		}
 	}
 }
+
+func TestFromMissingOfAllFamiliesOfFewPoints(t *testing.T) { holdsOnAllFamilies(t, holdsFromMissing) }
+
+func TestFromMissingOfSomeFamilies(t *testing.T) { holdsOnSomeFamilies(t, holdsFromMissing) }
 
 func rejectsMissing(t *testing.T, n int, sets []int) {
 	t.Helper()
