@@ -456,11 +456,11 @@ func TestCountMonomialsOutOfBounds(t *testing.T) {
 	}
 }
 
-func sameMonomials(a [][]int, b [][]int) bool { return slices.EqualFunc(a, b, slices.Equal[[]int]) }
+func sameLists(a [][]int, b [][]int) bool { return slices.EqualFunc(a, b, slices.Equal[[]int]) }
 
 func holdsMonomials(t *testing.T, n int, d int, want [][]int) {
 	t.Helper()
-	if got := impl.MonomialsOf(n, d); !sameMonomials(got, want) {
+	if got := impl.MonomialsOf(n, d); !sameLists(got, want) {
 		t.Errorf("MonomialsOf(%d, %d) = %v, want %v", n, d, got, want)
 	}
 }
@@ -503,7 +503,7 @@ func TestMonomialsAreListedAsManyAsThereAre(t *testing.T) {
 			list := impl.MonomialsOf(n, d)
 			holdsCount(t, n, d, len(list))
 			first := impl.FirstMonomials(n, d, impl.CountMonomials(n, d))
-			if !sameMonomials(first, list) {
+			if !sameLists(first, list) {
 				t.Errorf("FirstMonomials(%d, %d, all) = %v, want %v", n, d, first, list)
 			}
 			for place, exponents := range list {
@@ -545,7 +545,7 @@ func TestMonomialsOutOfBounds(t *testing.T) {
 
 func holdsFirstMonomials(t *testing.T, n int, d int, m int, want [][]int) {
 	t.Helper()
-	if got := impl.FirstMonomials(n, d, m); !sameMonomials(got, want) {
+	if got := impl.FirstMonomials(n, d, m); !sameLists(got, want) {
 		t.Errorf("FirstMonomials(%d, %d, %d) = %v, want %v", n, d, m, got, want)
 	}
 }
@@ -617,7 +617,7 @@ func holdsApart(t *testing.T, name string, produce func() [][]int) {
 		}
 	}
 	_ = append(lists, []int{-9}, []int{-9})
-	if again := produce(); !sameMonomials(again, want) {
+	if again := produce(); !sameLists(again, want) {
 		t.Errorf("%s: %v, then %v", name, want, again)
 	}
 }
